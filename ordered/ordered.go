@@ -51,13 +51,30 @@ func (l *List[K, V]) Put(key K, value V) {
 	l.entries = slices.Insert(l.entries, place, entry[K, V]{key, value})
 }
 
+// Drop takes a key and its value away, if it is there.
+func (l *List[K, V]) Drop(key K) {
+	if place, found := l.find(key); found {
+		l.entries = slices.Delete(l.entries, place, place+1)
+	}
+}
+
 // All goes over the keys and their values, by rising keys.
 func (l *List[K, V]) All() iter.Seq2[K, V] {
+	return func(yield func(K, V) bool) { each(l.entries, yield) }
+}
+
+// From goes over the keys that are not below one, and their values, by rising keys.
+func (l *List[K, V]) From(least K) iter.Seq2[K, V] {
 	return func(yield func(K, V) bool) {
-		for _, e := range l.entries {
-			if !yield(e.key, e.value) {
-				return
-			}
+		place, _ := l.find(least)
+		each(l.entries[place:], yield)
+	}
+}
+
+func each[K Key, V any](entries []entry[K, V], yield func(K, V) bool) {
+	for _, e := range entries {
+		if !yield(e.key, e.value) {
+			return
 		}
 	}
 }
@@ -67,4 +84,10 @@ func (l *List[K, V]) find(key K) (int, bool) {
 	return slices.BinarySearchFunc(l.entries, key, func(e entry[K, V], k K) int {
 		return cmp.Compare(e.key, k)
 	})
+}
+
+// AnyTwice tells whether a key stands twice among some. A sorted copy is gone through: else each would have to be held against all others.
+func AnyTwice[K Key](keys []K) bool {
+	sorted := slices.Sorted(slices.Values(keys))
+	return len(slices.Compact(sorted)) < len(keys)
 }

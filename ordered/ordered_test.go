@@ -37,6 +37,9 @@ func TestListIsLikeAMap(t *testing.T) {
 		k, v := random.Intn(60)-30, random.Int()
 		l.Put(k, v)
 		like[k] = v
+		gone := random.Intn(80) - 40
+		l.Drop(gone)
+		delete(like, gone)
 		asked := random.Intn(80) - 40
 		got, found := l.Get(asked)
 		want, there := like[asked]
@@ -51,6 +54,10 @@ func TestListIsLikeAMap(t *testing.T) {
 
 func TestEmptyList(t *testing.T) {
 	var l List[string, string]
+	l.Drop("a")
+	for k := range l.From("") {
+		t.Errorf("an empty list has the key %q", k)
+	}
 	if v, found := l.Get("a"); v != "" || found || l.Has("") || l.Len() != 0 || len(keys(&l)) != 0 {
 		t.Errorf("an empty list has %q, %v, %d", v, found, l.Len())
 	}
@@ -70,5 +77,54 @@ func TestAllMayBeLeft(t *testing.T) {
 	}
 	if seen != 3 {
 		t.Errorf("%d keys seen, want 3", seen)
+	}
+}
+
+func TestFromAKeyOn(t *testing.T) {
+	var l List[string, int]
+	all := []string{"", "a", "aa", "b", "c", "ca"}
+	for i, k := range all {
+		l.Put(k, i)
+	}
+	for _, least := range []string{"", "\x00", "a", "a\x00", "ab", "b", "c", "caa", "d", "\xff"} {
+		var want, got []string
+		for _, k := range all {
+			if k >= least {
+				want = append(want, k)
+			}
+		}
+		for k, i := range l.From(least) {
+			got = append(got, k)
+			if all[i] != k {
+				t.Errorf("From(%q): %q has the value %d", least, k, i)
+			}
+		}
+		if !slices.Equal(got, want) {
+			t.Errorf("From(%q) = %q, want %q", least, got, want)
+		}
+	}
+	for k := range l.From("aa") {
+		if k != "aa" {
+			t.Errorf("From goes on to %q behind a break", k)
+		}
+		break
+	}
+}
+
+func TestAnyTwice(t *testing.T) {
+	for _, once := range [][]string{nil, {""}, {"a", ""}, {"b", "a", "c"}, {"a", "aa", "aaa"}} {
+		if AnyTwice(once) {
+			t.Errorf("AnyTwice(%q)", once)
+		}
+		for _, k := range once {
+			twice := append(slices.Clone(once), k)
+			before := slices.Clone(twice)
+			if !AnyTwice(twice) {
+				t.Errorf("not AnyTwice(%q)", twice)
+			}
+			if !slices.Equal(twice, before) {
+				t.Errorf("AnyTwice made %q of %q", twice, before)
+			}
+		}
 	}
 }

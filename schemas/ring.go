@@ -11,29 +11,30 @@ type arrows [mostPlaces][mostPlaces]bool
 // place is a relation, with the names by which others hang on it.
 type place struct {
 	typeName, name string
+	of             *relations
 	relation       Relation
 }
 
-// hasBadRing tells whether some relation hangs against its will on one from which arrows of any kind lead back to it: what is in such a relation could not be told.
-func (s *Schema) hasBadRing() bool {
+// rank gives every relation its rank; false if they can have none, because some relation hangs against its will on one from which arrows of any kind lead back to it.
+func (s *Schema) rank() bool {
 	places := s.places()
 	hangs, against := hanging(places)
 	hangs.close()
-	for i := range places {
-		for j := range places {
-			if against[i][j] && hangs[j][i] {
-				return true
-			}
-		}
+	if hangs.leadBack(against) {
+		return false
 	}
-	return false
+	for i, p := range places {
+		p.relation.Rank = hangs.reach(i)
+		p.of.Put(p.name, p.relation)
+	}
+	return true
 }
 
 func (s *Schema) places() []place {
 	var places []place
 	for typeName, of := range s.types.All() {
 		for name, relation := range of.All() {
-			places = append(places, place{typeName, name, relation})
+			places = append(places, place{typeName, name, of, relation})
 		}
 	}
 	return places
@@ -78,4 +79,27 @@ func (a *arrows) close() {
 			}
 		}
 	}
+}
+
+// leadBack tells whether these arrows lead from the end of one of the others back to its beginning.
+func (a *arrows) leadBack(others arrows) bool {
+	for from := range others {
+		for to, there := range others[from] {
+			if there && a[to][from] {
+				return true
+			}
+		}
+	}
+	return false
+}
+
+// reach is how many relations arrows lead to from one, with itself. If one leads to another it reaches all that this one does: as many if they are in one ring, and else itself besides.
+func (a *arrows) reach(from int) int {
+	count := 1
+	for to, there := range a[from] {
+		if there && to != from {
+			count++
+		}
+	}
+	return count
 }

@@ -2,6 +2,7 @@
 package schemas
 
 import (
+	"iter"
 	"strings"
 
 	"warden/api"
@@ -13,6 +14,7 @@ import (
 type Relation struct {
 	IsSet      bool // said by `set`
 	Expression Expression
+	Rank       int // from 1 on: as high as those it hangs on or higher, and higher than those against its will
 	line       int
 }
 
@@ -29,7 +31,8 @@ func Parse(text string) (*Schema, int, api.Errno) {
 	if len(text) > api.MaxSchema {
 		return nil, 0, api.ErrLong
 	}
-	lines := strings.Split(text, "\n")
+	// A copy, because the names are kept.
+	lines := strings.Split(strings.Clone(text), "\n")
 	r := reader{schema: &Schema{}}
 	for number, line := range lines {
 		if e := r.line(number, line); e != api.OK {
@@ -39,7 +42,7 @@ func Parse(text string) (*Schema, int, api.Errno) {
 	if number := r.schema.firstUnknown(len(lines)); number < len(lines) {
 		return nil, number, api.ErrName
 	}
-	if r.schema.hasBadRing() {
+	if !r.schema.rank() {
 		return nil, len(lines), api.ErrRing
 	}
 	return r.schema, r.schema.types.Len(), api.OK
@@ -52,6 +55,15 @@ func (s *Schema) Relation(typeName, name string) (Relation, bool) {
 		return Relation{}, false
 	}
 	return of.Get(name)
+}
+
+// Relations goes over the relations of a type, by rising names: over none if there is no such type.
+func (s *Schema) Relations(typeName string) iter.Seq2[string, Relation] {
+	of, found := s.types.Get(typeName)
+	if !found {
+		of = &relations{}
+	}
+	return of.All()
 }
 
 // ReadTuple reads a tuple that fits the schema; the error says whether the text is none, or does not fit.

@@ -7,9 +7,6 @@ import (
 	"warden/schemas"
 )
 
-// Store is a store of tuples.
-type Store struct{}
-
 // Schema looks a schema over (P3).
 func Schema(text string) (int, api.Errno) {
 	_, number, e := schemas.Parse(text)
@@ -36,27 +33,3 @@ func Frame(payload string) (string, api.Errno) {
 
 // Frames reads the frames with which a file begins (P5).
 func Frames(data string) ([]string, int) { return frame.ReadAll(data) }
-
-// Open opens a store (P6, P12).
-func Open(schema string, files []api.File, o api.Options) (*Store, api.Errno) { return nil, api.OK }
-
-// Write does a transaction (P7).
-func (s *Store) Write(x api.Tx) (int, api.Errno) { return 0, api.OK }
-
-// Read tells tuples (P8).
-func (s *Store) Read(prefix string) ([]string, api.Errno) { return nil, api.OK }
-
-// Check tells whether a subject is in (P9).
-func (s *Store) Check(tuple string) (bool, api.Errno) { return false, api.OK }
-
-// Revision tells how many transactions there were, and how many are safe (P8).
-func (s *Store) Revision() (int, int, api.Errno) { return 0, 0, api.OK }
-
-// Flush makes all transactions safe (P10).
-func (s *Store) Flush() api.Errno { return api.OK }
-
-// Checkpoint begins a new epoch (P11).
-func (s *Store) Checkpoint() api.Errno { return api.OK }
-
-// Files tells what is on the disk (P13).
-func (s *Store) Files() []api.File { return nil }

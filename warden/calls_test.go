@@ -1,0 +1,70 @@
+package warden
+
+import (
+	"fmt"
+	"slices"
+	"testing"
+
+	"warden/api"
+)
+
+// quiet: power is never lost, and there is always room.
+var quiet = api.Options{Crash: api.Never, Full: api.Never}
+
+func newStore(t *testing.T, schema string) *Store {
+	t.Helper()
+	s, e := Open(schema, nil, quiet)
+	if s == nil || e != api.OK {
+		t.Fatalf("P6: Open(%q, no files) = %v, %d", schema, s, e)
+	}
+	return s
+}
+
+func checkWrite(t *testing.T, s *Store, x api.Tx, number int, want api.Errno) {
+	t.Helper()
+	if n, e := s.Write(x); n != number || e != want {
+		t.Errorf("P7: Write(%.300q) = %d, %d, want %d, %d", x, n, e, number, want)
+	}
+}
+
+// putIn writes tuples, as many at a time as may be.
+func putIn(t *testing.T, s *Store, tuples ...string) {
+	t.Helper()
+	for l := range slices.Chunk(tuples, api.MaxChanges) {
+		if _, e := s.Write(api.Tx{Put: l}); e != api.OK {
+			t.Fatalf("P7: Write of %q: %d", l, e)
+		}
+	}
+}
+
+func checkRead(t *testing.T, s *Store, prefix string, want ...string) {
+	t.Helper()
+	if l, e := s.Read(prefix); !slices.Equal(l, want) || e != api.OK {
+		t.Errorf("P8: Read(%.80q) = %q, %d, want %q", prefix, l, e, want)
+	}
+}
+
+func checkRevision(t *testing.T, s *Store, number, safe int) {
+	t.Helper()
+	if n, m, e := s.Revision(); n != number || m != safe || e != api.OK {
+		t.Errorf("P8: Revision() = %d, %d, %d, want %d, %d", n, m, e, number, safe)
+	}
+}
+
+func checkIn(t *testing.T, s *Store, want bool, tuples ...string) {
+	t.Helper()
+	for _, tuple := range tuples {
+		if in, e := s.Check(tuple); in != want || e != api.OK {
+			t.Errorf("P9: Check(%s) = %v, %d, want %v", tuple, in, e, want)
+		}
+	}
+}
+
+// owners: n tuples that fit the document's schema, all different, in rising order.
+func owners(n int) []string {
+	var l []string
+	for i := range n {
+		l = append(l, fmt.Sprintf("page:%03d#owner@user:ann", i))
+	}
+	return l
+}
