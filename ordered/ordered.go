@@ -51,11 +51,19 @@ func (l *List[K, V]) Put(key K, value V) {
 	l.entries = slices.Insert(l.entries, place, entry[K, V]{key, value})
 }
 
-// Drop takes a key and its value away, if it is there.
+// Drop takes a key and its value away, if it is there. Of the entries around it the fewer ones move, so that a long list can be emptied from either end.
 func (l *List[K, V]) Drop(key K) {
-	if place, found := l.find(key); found {
-		l.entries = slices.Delete(l.entries, place, place+1)
+	place, found := l.find(key)
+	if !found {
+		return
 	}
+	if place >= len(l.entries)/2 {
+		l.entries = slices.Delete(l.entries, place, place+1)
+		return
+	}
+	copy(l.entries[1:place+1], l.entries[:place])
+	clear(l.entries[:1])
+	l.entries = l.entries[1:]
 }
 
 // All goes over the keys and their values, by rising keys.
@@ -90,4 +98,9 @@ func (l *List[K, V]) find(key K) (int, bool) {
 func AnyTwice[K Key](keys []K) bool {
 	sorted := slices.Sorted(slices.Values(keys))
 	return len(slices.Compact(sorted)) < len(keys)
+}
+
+// Rise tells whether each key is above the one ahead of it.
+func Rise[K Key](keys []K) bool {
+	return slices.IsSorted(keys) && !AnyTwice(keys)
 }

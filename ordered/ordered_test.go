@@ -128,3 +128,47 @@ func TestAnyTwice(t *testing.T) {
 		}
 	}
 }
+
+func TestEmptiedFromEitherEnd(t *testing.T) {
+	for _, from := range []string{"front", "back", "both"} {
+		var l List[int, int]
+		for k := range 40 {
+			l.Put(k, -k)
+		}
+		low, high := 0, 40
+		for low < high {
+			if from == "front" || from == "both" && (low+high)%3 == 0 {
+				l.Drop(low)
+				low++
+			} else {
+				high--
+				l.Drop(high)
+			}
+			for k, v := range l.All() {
+				if v != -k {
+					t.Fatalf("%s: %d has the value %d", from, k, v)
+				}
+			}
+			if got := keys(&l); len(got) != high-low || len(got) > 0 && (got[0] != low || got[len(got)-1] != high-1) || !slices.IsSorted(got) {
+				t.Fatalf("%s: the keys from %d to %d are %v", from, low, high, got)
+			}
+		}
+		l.Put(7, 8)
+		if v, found := l.Get(7); v != 8 || !found || l.Len() != 1 {
+			t.Errorf("%s: a key put in behind all: %d, %v, %d", from, v, found, l.Len())
+		}
+	}
+}
+
+func TestRise(t *testing.T) {
+	for _, l := range [][]string{nil, {""}, {"a"}, {"", "a", "aa", "ab", "b"}} {
+		if !Rise(l) {
+			t.Errorf("Rise(%q) = false", l)
+		}
+	}
+	for _, l := range [][]string{{"", ""}, {"a", "a"}, {"b", "a"}, {"a", "c", "b"}, {"aa", "a"}, {"a", "b", "b", "c"}, {"a", "b", "a"}} {
+		if Rise(l) {
+			t.Errorf("Rise(%q) = true", l)
+		}
+	}
+}

@@ -25,6 +25,18 @@ func New(schema *schemas.Schema) *State {
 	return &State{schema: schema}
 }
 
+// Restore is a state with these tuples and this revision; false if no state can have these tuples, or they do not rise.
+func Restore(schema *schemas.Schema, revision int, texts []string) (*State, bool) {
+	s := &State{schema: schema, revision: revision}
+	if len(texts) > api.MaxTuples || !ordered.Rise(texts) || s.firstWrong(texts) != api.OK {
+		return nil, false
+	}
+	for _, text := range texts {
+		s.put(text)
+	}
+	return s, true
+}
+
 // Revision is the number of the last transaction.
 func (s *State) Revision() int { return s.revision }
 

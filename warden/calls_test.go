@@ -11,6 +11,60 @@ import (
 // quiet: power is never lost, and there is always room.
 var quiet = api.Options{Crash: api.Never, Full: api.Never}
 
+// framesOf are the frames of some payloads, one behind the other.
+func framesOf(payloads ...string) string {
+	all := ""
+	for _, payload := range payloads {
+		all += libraryFrame(payload)
+	}
+	return all
+}
+
+// filesOf: of name, bytes, name, bytes, ..
+func filesOf(l ...string) []api.File {
+	var files []api.File
+	for pair := range slices.Chunk(l, 2) {
+		files = append(files, api.File{Name: pair[0], Data: pair[1]})
+	}
+	return files
+}
+
+// opened is a store of files: name, bytes, name, bytes, ..
+func opened(t *testing.T, schema string, l ...string) *Store {
+	t.Helper()
+	return openedOf(t, schema, filesOf(l...))
+}
+
+func openedOf(t *testing.T, schema string, files []api.File) *Store {
+	t.Helper()
+	s, e := Open(schema, files, quiet)
+	if s == nil || e != api.OK {
+		t.Fatalf("P12: Open(.., %.300q) = %v, %d", files, s, e)
+	}
+	return s
+}
+
+func checkFiles(t *testing.T, s *Store, l ...string) {
+	t.Helper()
+	if got := s.Files(); !slices.Equal(got, filesOf(l...)) {
+		t.Errorf("P13: Files() = %.600q, want %.600q", got, filesOf(l...))
+	}
+}
+
+func flush(t *testing.T, s *Store) {
+	t.Helper()
+	if e := s.Flush(); e != api.OK {
+		t.Fatalf("P10: Flush() = %d", e)
+	}
+}
+
+func checkpoint(t *testing.T, s *Store) {
+	t.Helper()
+	if e := s.Checkpoint(); e != api.OK {
+		t.Fatalf("P11: Checkpoint() = %d", e)
+	}
+}
+
 func newStore(t *testing.T, schema string) *Store {
 	t.Helper()
 	s, e := Open(schema, nil, quiet)

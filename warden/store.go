@@ -4,15 +4,16 @@ import (
 	"slices"
 
 	"warden/api"
-	"warden/ordered"
+	"warden/disk"
+	"warden/epochs"
 	"warden/schemas"
-	"warden/state"
 )
 
 // Store is a store of tuples.
 type Store struct {
-	now  *state.State
-	safe int // the revision up to which all is safe
+	disk   *disk.Disk
+	keeper *epochs.Keeper
+	broken api.Errno // what every call but Files answers, unless it is OK; there is no keeper then
 }
 
 // Open opens a store (P6, P12).
@@ -21,21 +22,18 @@ func Open(schema string, files []api.File, o api.Options) (*Store, api.Errno) {
 	if e != api.OK {
 		return nil, e
 	}
-	if ordered.AnyTwice(namesOf(files)) {
+	d, ok := disk.New(files)
+	if !ok {
 		return nil, api.ErrDisk
 	}
 	if !mayBe(o) {
 		return nil, api.ErrOption
 	}
-	return &Store{now: state.New(known)}, api.OK
-}
-
-func namesOf(files []api.File) []string {
-	var names []string
-	for _, file := range files {
-		names = append(names, file.Name)
+	keeper, ok := epochs.Open(known, d)
+	if !ok {
+		return &Store{disk: d, broken: api.ErrCorrupt}, api.ErrCorrupt
 	}
-	return names
+	return &Store{disk: d, keeper: keeper}, api.OK
 }
 
 // mayBe tells whether all options are ones that may be.
@@ -45,22 +43,54 @@ func mayBe(o api.Options) bool {
 }
 
 // Write does a transaction (P7).
-func (s *Store) Write(x api.Tx) (int, api.Errno) { return s.now.Write(x) }
+func (s *Store) Write(x api.Tx) (int, api.Errno) {
+	if s.broken != api.OK {
+		return 0, s.broken
+	}
+	return s.keeper.Write(x)
+}
 
 // Read tells tuples (P8).
-func (s *Store) Read(prefix string) ([]string, api.Errno) { return s.now.Read(prefix), api.OK }
+func (s *Store) Read(prefix string) ([]string, api.Errno) {
+	if s.broken != api.OK {
+		return nil, s.broken
+	}
+	return s.keeper.State().Read(prefix), api.OK
+}
 
 // Check tells whether a subject is in (P9).
-func (s *Store) Check(tuple string) (bool, api.Errno) { return s.now.Check(tuple) }
+func (s *Store) Check(tuple string) (bool, api.Errno) {
+	if s.broken != api.OK {
+		return false, s.broken
+	}
+	return s.keeper.State().Check(tuple)
+}
 
 // Revision tells how many transactions there were, and how many are safe (P8).
-func (s *Store) Revision() (int, int, api.Errno) { return s.now.Revision(), s.safe, api.OK }
+func (s *Store) Revision() (int, int, api.Errno) {
+	if s.broken != api.OK {
+		return 0, 0, s.broken
+	}
+	return s.keeper.State().Revision(), s.keeper.Safe(), api.OK
+}
 
 // Flush makes all transactions safe (P10).
-func (s *Store) Flush() api.Errno { return api.OK }
+func (s *Store) Flush() api.Errno {
+	if s.broken != api.OK {
+		return s.broken
+	}
+	s.keeper.Flush()
+	return api.OK
+}
 
 // Checkpoint begins a new epoch (P11).
-func (s *Store) Checkpoint() api.Errno { return api.OK }
+func (s *Store) Checkpoint() api.Errno {
+	if s.broken != api.OK {
+		return s.broken
+	}
+	s.keeper.Checkpoint()
+	return api.OK
+}
 
 // Files tells what is on the disk (P13).
-func (s *Store) Files() []api.File { return nil }
+func (s *Store) Files() []api.File { return s.disk.Files() }
