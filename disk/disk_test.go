@@ -8,6 +8,9 @@ import (
 	"warden/api"
 )
 
+// quiet: power is never lost, and there is always room.
+var quiet = api.Options{Crash: api.Never, Full: api.Never}
+
 // files: of name, bytes, name, bytes, ..
 func files(l ...string) []api.File {
 	var all []api.File
@@ -17,9 +20,9 @@ func files(l ...string) []api.File {
 	return all
 }
 
-func diskOf(t *testing.T, l ...string) *Disk {
+func diskOf(t *testing.T, o api.Options, l ...string) *Disk {
 	t.Helper()
-	d, ok := New(files(l...))
+	d, ok := New(files(l...), o)
 	if !ok {
 		t.Fatalf("there can be no disk of %q", l)
 	}
@@ -52,7 +55,7 @@ func TestOperations(t *testing.T) {
 		{"remove all", []Operation{{Kind: Remove, Name: "a"}, {Kind: Remove, Name: "b"}}, nil},
 		{"remove, and create anew", []Operation{{Kind: Remove, Name: "a"}, {Kind: Create, Name: "a"}}, []string{"a", "", "b", ""}},
 	} {
-		d := diskOf(t, "b", "", "a", "12345")
+		d := diskOf(t, quiet, "b", "", "a", "12345")
 		for _, o := range c.do {
 			d.Do(o)
 		}
@@ -63,7 +66,7 @@ func TestOperations(t *testing.T) {
 }
 
 func TestNamesThatAreNotThere(t *testing.T) {
-	d := diskOf(t, "a", "12345")
+	d := diskOf(t, quiet, "a", "12345")
 	for kind := Append; kind <= Remove; kind++ {
 		d.Do(Operation{Kind: kind, Name: "b", Bytes: "x", To: "c"})
 	}
@@ -76,7 +79,7 @@ func TestNamesThatAreNotThere(t *testing.T) {
 }
 
 func TestReadAndNames(t *testing.T) {
-	d := diskOf(t, "b", "2", "", "0", "a", "", "ab", "\n")
+	d := diskOf(t, quiet, "b", "2", "", "0", "a", "", "ab", "\n")
 	if got := d.Names(); !slices.Equal(got, []string{"", "a", "ab", "b"}) {
 		t.Errorf("names %q", got)
 	}
@@ -89,7 +92,7 @@ func TestReadAndNames(t *testing.T) {
 
 func TestTwoFilesOfOneName(t *testing.T) {
 	for _, l := range [][]string{{"a", "1", "a", "1"}, {"", "", "", ""}, {"a", "", "b", "", "c", "", "b", "x"}} {
-		if d, ok := New(files(l...)); ok || d != nil {
+		if d, ok := New(files(l...), quiet); ok || d != nil {
 			t.Errorf("P6: a disk of %q: %v, %v", l, d, ok)
 		}
 	}
@@ -97,7 +100,7 @@ func TestTwoFilesOfOneName(t *testing.T) {
 
 func TestDiskHasCopies(t *testing.T) {
 	name, data := []byte("name"), []byte("data")
-	d := diskOf(t, unsafe.String(&name[0], 4), unsafe.String(&data[0], 4))
+	d := diskOf(t, quiet, unsafe.String(&name[0], 4), unsafe.String(&data[0], 4))
 	name[0], data[0] = 'x', 'x'
 	want := files("name", "data")
 	first := d.Files()

@@ -16,9 +16,10 @@ type Disk interface {
 	Do(disk.Operation)
 	Names() []string                 // in rising order
 	Read(name string) (string, bool) // the bytes of a file; false if there is none
+	Trouble() api.Errno              // why it does nothing any more; OK as long as all is well
 }
 
-// Keeper keeps a state on a disk.
+// Keeper keeps a state on a disk. It goes on with its operations whatever has become of the disk, which does none any more behind trouble, and asks in the end.
 type Keeper struct {
 	disk    Disk
 	now     *state.State
@@ -27,30 +28,37 @@ type Keeper struct {
 	safe    int    // the revision up to which all is safe
 }
 
-// Open has what lies on a disk, or a new state if no manifest lies there, and takes away what belongs to neither; false, and the disk as it was, if what lies there can't be.
-func Open(schema *schemas.Schema, d Disk) (*Keeper, bool) {
+// Open has what lies on a disk, or a new state if no manifest lies there, and takes away what belongs to neither. It is nil and ErrCorrupt, and the disk as it was, if what lies there can't be; nil and the disk's trouble, if it has any.
+func Open(schema *schemas.Schema, d Disk) (*Keeper, api.Errno) {
+	k := &Keeper{disk: d}
 	manifest, found := d.Read(records.Manifest)
 	if !found {
-		return begin(schema, d), true
+		k.begin(schema)
+	} else if !k.load(schema, manifest) {
+		return nil, api.ErrCorrupt
 	}
-	epoch, ok := records.ReadManifest(manifest)
-	if !ok {
-		return nil, false
+	if e := d.Trouble(); e != api.OK {
+		return nil, e
 	}
-	k := &Keeper{disk: d, epoch: epoch}
-	if !k.loadCheckpoint(schema) || !k.loadLog() {
-		return nil, false
-	}
-	k.sweep(records.Manifest, records.CheckpointName(epoch), records.LogName(epoch))
-	return k, true
+	return k, api.OK
 }
 
-// begin is a new state, in epoch 0, on a disk that has nothing else.
-func begin(schema *schemas.Schema, d Disk) *Keeper {
-	k := &Keeper{disk: d, now: state.New(schema)}
+// begin makes a new state, in epoch 0, on a disk that has nothing else.
+func (k *Keeper) begin(schema *schemas.Schema) {
+	k.now = state.New(schema)
 	k.sweep()
 	k.enter(0)
-	return k
+}
+
+// load has the state of the epoch that a manifest names; false if that can't be.
+func (k *Keeper) load(schema *schemas.Schema, manifest string) bool {
+	epoch, ok := records.ReadManifest(manifest)
+	k.epoch = epoch
+	if !ok || !k.loadCheckpoint(schema) || !k.loadLog() {
+		return false
+	}
+	k.sweep(records.Manifest, records.CheckpointName(epoch), records.LogName(epoch))
+	return true
 }
 
 // State is what is kept.
@@ -70,26 +78,34 @@ func (k *Keeper) Write(x api.Tx) (int, api.Errno) {
 	return revision, api.OK
 }
 
-// Flush makes the transactions safe that wait for it.
-func (k *Keeper) Flush() {
+// Flush makes the transactions safe that wait for it, and tells the disk's trouble.
+func (k *Keeper) Flush() api.Errno {
 	if len(k.waiting) == 0 {
-		return
+		return api.OK
 	}
 	log := records.LogName(k.epoch)
 	k.append(log, string(k.waiting))
 	k.do(disk.Sync, log)
+	// Behind trouble there is no other Flush, so nothing waits for it.
 	k.waiting = nil
-	k.safe = k.now.Revision()
+	e := k.disk.Trouble()
+	if e == api.OK {
+		k.safe = k.now.Revision()
+	}
+	return e
 }
 
-// Checkpoint makes all safe, and goes on in a new epoch, whose log is empty.
-func (k *Keeper) Checkpoint() {
-	k.Flush()
+// Checkpoint makes all safe, and goes on in a new epoch, whose log is empty; it tells the disk's trouble.
+func (k *Keeper) Checkpoint() api.Errno {
+	if e := k.Flush(); e != api.OK {
+		return e
+	}
 	old := k.epoch
 	k.enter(next(old))
 	k.do(disk.Remove, records.CheckpointName(old))
 	k.do(disk.Remove, records.LogName(old))
 	k.do(disk.SyncDir, "")
+	return k.disk.Trouble()
 }
 
 // next is the epoch behind another one.
@@ -104,6 +120,7 @@ func next(epoch int) int {
 func (k *Keeper) enter(epoch int) {
 	checkpoint, log := records.CheckpointName(epoch), records.LogName(epoch)
 	k.do(disk.Create, checkpoint)
+	// All frames are taken, even if the disk drops them: else the one that makes them would never end.
 	for framed := range records.MakeCheckpoint(k.now.Revision(), k.now.Read("")) {
 		k.append(checkpoint, framed)
 	}

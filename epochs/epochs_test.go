@@ -67,28 +67,30 @@ const (
 	two = "t:2#a@t:9"
 )
 
+var quiet = api.Options{Crash: api.Never, Full: api.Never}
+
 // keep opens what lies on a disk of name, bytes, name, bytes, ..
-func keep(t *testing.T, l ...string) (*Keeper, *noting, bool) {
+func keep(t *testing.T, o api.Options, l ...string) (*Keeper, *noting, api.Errno) {
 	t.Helper()
 	var files []api.File
 	for pair := range slices.Chunk(l, 2) {
 		files = append(files, api.File{Name: pair[0], Data: pair[1]})
 	}
 	schema, _, e := schemas.Parse("type t\nrel a self")
-	d, ok := disk.New(files)
+	d, ok := disk.New(files, o)
 	if e != api.OK || !ok {
 		t.Fatalf("P6: %d, %v", e, ok)
 	}
 	n := &noting{Disk: d}
-	k, ok := Open(schema, n)
-	return k, n, ok
+	k, e := Open(schema, n)
+	return k, n, e
 }
 
 func opened(t *testing.T, l ...string) (*Keeper, *noting) {
 	t.Helper()
-	k, n, ok := keep(t, l...)
-	if !ok {
-		t.Fatalf("P12: %q is told to be corrupt", l)
+	k, n, e := keep(t, quiet, l...)
+	if e != api.OK {
+		t.Fatalf("P12: Open of %q: %d", l, e)
 	}
 	return k, n
 }
@@ -176,10 +178,71 @@ func TestOpenOfWhatIsCorruptDoesNothing(t *testing.T) {
 		{"MANIFEST", framesOf("5"), "c5", framesOf("7", "end"), "x", ""},
 		{"MANIFEST", framesOf("5"), "c5", framesOf("7", "end"), "l5", framesOf("9") + "torn", "x", ""},
 	} {
-		k, n, ok := keep(t, l...)
-		if ok || k != nil {
-			t.Errorf("P12: %q: %v, %v", l, k, ok)
+		k, n, e := keep(t, quiet, l...)
+		if k != nil || e != api.ErrCorrupt {
+			t.Errorf("P12: Open of %q: %v, %d", l, k, e)
 		}
 		n.check(t, "P12: what is corrupt")
+	}
+}
+
+func TestOpenInTrouble(t *testing.T) {
+	torn := []string{"MANIFEST", framesOf("5"), "c5", framesOf("7", "end"), "l5", "torn", "x", ""}
+	for _, c := range []struct {
+		o     api.Options
+		files []string
+		want  api.Errno
+	}{
+		{api.Options{Crash: 0, Full: api.Never}, nil, api.ErrLost},
+		{api.Options{Crash: 11, Full: api.Never}, nil, api.ErrLost},
+		{api.Options{Crash: api.Never, Full: 0}, nil, api.ErrFull},
+		{api.Options{Crash: api.Never, Full: 8}, nil, api.ErrFull},
+		{api.Options{Crash: 0, Full: api.Never}, torn, api.ErrLost},
+		{api.Options{Crash: 3, Full: api.Never}, torn, api.ErrLost},
+		{api.Options{Crash: 0, Full: 0}, torn[:4], api.ErrCorrupt},
+	} {
+		if k, _, e := keep(t, c.o, c.files...); k != nil || e != c.want {
+			t.Errorf("P14: Open of %q with %+v: %v, %d, want %d", c.files, c.o, k, e, c.want)
+		}
+	}
+	for _, o := range []api.Options{{Crash: 12, Full: api.Never}, {Crash: api.Never, Full: 9}} {
+		if k, _, e := keep(t, o); k == nil || e != api.OK {
+			t.Errorf("P14: Open with %+v: %v, %d", o, k, e)
+		}
+	}
+}
+
+func TestWhatIsSafeInTrouble(t *testing.T) {
+	for _, c := range []struct {
+		o          api.Options
+		flush      bool
+		want       api.Errno
+		safe, asks int
+	}{
+		{api.Options{Crash: 12, Full: api.Never}, true, api.ErrLost, 0, 2},
+		{api.Options{Crash: 13, Full: api.Never}, true, api.ErrLost, 0, 2},
+		{api.Options{Crash: 14, Full: api.Never}, true, api.OK, 1, 2},
+		{api.Options{Crash: api.Never, Full: 12}, true, api.ErrFull, 0, 2},
+		{api.Options{Crash: api.Never, Full: 12}, false, api.ErrFull, 0, 2},
+		{api.Options{Crash: 13, Full: api.Never}, false, api.ErrLost, 0, 2},
+		{api.Options{Crash: 14, Full: api.Never}, false, api.ErrLost, 1, 18},
+		{api.Options{Crash: api.Never, Full: 13}, false, api.ErrFull, 1, 18},
+		{api.Options{Crash: api.Never, Full: 23}, false, api.ErrFull, 1, 18},
+		{api.Options{Crash: 30, Full: 24}, false, api.OK, 1, 18},
+	} {
+		k, n, e := keep(t, c.o)
+		if e != api.OK {
+			t.Fatalf("P14: Open with %+v: %d", c.o, e)
+		}
+		write(t, k, api.Tx{Put: []string{one}})
+		n.done = nil
+		if c.flush {
+			e = k.Flush()
+		} else {
+			e = k.Checkpoint()
+		}
+		if e != c.want || k.Safe() != c.safe || k.State().Revision() != 1 || len(n.done) != c.asks {
+			t.Errorf("P14: with %+v: %d, safe %d, revision %d, %d operations were asked for; want %d, %d, 1, %d", c.o, e, k.Safe(), k.State().Revision(), len(n.done), c.want, c.safe, c.asks)
+		}
 	}
 }

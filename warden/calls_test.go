@@ -2,8 +2,12 @@ package warden
 
 import (
 	"fmt"
+	"runtime"
 	"slices"
+	"sync"
 	"testing"
+	"time"
+	"unsafe"
 
 	"warden/api"
 )
@@ -121,4 +125,55 @@ func owners(n int) []string {
 		l = append(l, fmt.Sprintf("page:%03d#owner@user:ann", i))
 	}
 	return l
+}
+
+// checkSame: what is told is the same, even if it is told by many at once.
+func checkSame(t *testing.T, tell func(*testing.T) string) {
+	t.Helper()
+	want := tell(t)
+	side := make([]string, 30)
+	var group sync.WaitGroup
+	for i := range side {
+		group.Go(func() { side[i] = tell(t) })
+	}
+	group.Wait()
+	for _, got := range append(side, tell(t)) {
+		if got != want {
+			t.Fatalf("P2: the same calls have told %.500s, and %.500s", want, got)
+		}
+	}
+}
+
+// checkNoMoreRun: there are no more goroutines than there were. One that has handed over its last frame may need a moment to be gone.
+func checkNoMoreRun(t *testing.T, before int) {
+	t.Helper()
+	for range 1000 {
+		if runtime.NumGoroutine() <= before {
+			return
+		}
+		time.Sleep(time.Millisecond)
+	}
+	t.Errorf("P11: %d goroutines were there, and %d behind Checkpoint", before, runtime.NumGoroutine())
+}
+
+// checkOwnFiles: what Files tells can be written into, spare room too, and is told again as it was.
+func checkOwnFiles(t *testing.T, s *Store) {
+	t.Helper()
+	want := fmt.Sprintf("%q", s.Files())
+	mine, other := s.Files(), s.Files()
+	for _, f := range mine {
+		for _, text := range []string{f.Name, f.Data} {
+			if len(text) > 0 {
+				*unsafe.StringData(text) = 'x'
+			}
+		}
+	}
+	for i := range mine[:cap(mine)] {
+		mine[:cap(mine)][i] = api.File{Name: "mine"}
+	}
+	for _, l := range [][]api.File{other, s.Files()} {
+		if fmt.Sprintf("%q", l) != want || slices.Contains(l[:cap(l)], api.File{Name: "mine"}) {
+			t.Errorf("P2: lists of Files share memory: %q, want %s", l[:cap(l)], want)
+		}
+	}
 }

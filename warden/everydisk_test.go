@@ -4,10 +4,7 @@ import (
 	"fmt"
 	"runtime"
 	"slices"
-	"sync"
 	"testing"
-	"time"
-	"unsafe"
 
 	"warden/api"
 )
@@ -65,22 +62,8 @@ func TestFilesListsAreNewMemory(t *testing.T) {
 	s := storeOf(t, schemaA, ann, bob)
 	flush(t, s)
 	want := s.Files()
-	mine, other := s.Files(), s.Files()
-	for _, f := range mine {
-		for _, text := range []string{f.Name, f.Data} {
-			if len(text) > 0 {
-				*unsafe.StringData(text) = 'x'
-			}
-		}
-	}
-	for i := range mine[:cap(mine)] {
-		mine[:cap(mine)][i] = api.File{Name: "mine"}
-	}
-	for _, l := range [][]api.File{other, s.Files()} {
-		if !slices.Equal(l, want) || slices.Contains(l[:cap(l)], api.File{Name: "mine"}) {
-			t.Errorf("P2: lists of Files share memory: %q, want %q", l[:cap(l)], want)
-		}
-	}
+	other := s.Files()
+	checkOwnFiles(t, s)
 	putIn(t, s, cat)
 	checkpoint(t, s)
 	if !slices.Equal(other, want) {
@@ -119,20 +102,7 @@ func diskCourse(t *testing.T) string {
 	return told
 }
 
-func TestDiskHangsOnTheCallsAlone(t *testing.T) {
-	want := diskCourse(t)
-	side := make([]string, 30)
-	var group sync.WaitGroup
-	for i := range side {
-		group.Go(func() { side[i] = diskCourse(t) })
-	}
-	group.Wait()
-	for _, got := range side {
-		if got != want {
-			t.Fatalf("P2: the same calls have left %.500s, and %.500s", want, got)
-		}
-	}
-}
+func TestDiskHangsOnTheCallsAlone(t *testing.T) { checkSame(t, diskCourse) }
 
 func TestNothingRunsOnBehindCheckpoint(t *testing.T) {
 	s := storeOf(t, schemaA, owners(200)...)
@@ -140,14 +110,7 @@ func TestNothingRunsOnBehindCheckpoint(t *testing.T) {
 	for range 200 {
 		checkpoint(t, s)
 	}
-	// One that has handed over its last frame may need a moment to be gone.
-	for range 1000 {
-		if runtime.NumGoroutine() <= before {
-			return
-		}
-		time.Sleep(time.Millisecond)
-	}
-	t.Errorf("P11: %d goroutines were there, and %d behind Checkpoint", before, runtime.NumGoroutine())
+	checkNoMoreRun(t, before)
 }
 
 func TestDiskCallsEndAtAllTexts(t *testing.T) {

@@ -6,7 +6,6 @@ import (
 	"math/rand"
 	"slices"
 	"strings"
-	"sync"
 	"testing"
 	"unsafe"
 
@@ -54,6 +53,9 @@ func TestOpenEndsAtAllNumbers(t *testing.T) {
 				low := min(o.Crash, o.Full) < -1 || o.Dirs < 0 || len(o.Keeps) > 0 && slices.Min(o.Keeps) < 0
 				if s, e := Open(schemaA, nil, o); low != (e == api.ErrOption) || low != (s == nil) {
 					t.Errorf("P1: Open with %+v: %v, %d", o, s, e)
+				}
+				if !low {
+					checkCalls(t, nil, o, toPut(ann), toFlush, toPut(bob), toCheckpoint)
 				}
 			}
 		}
@@ -178,19 +180,9 @@ func course(t *testing.T) string {
 }
 
 func TestStoreAnswersHangOnItsCallsAlone(t *testing.T) {
-	want := course(t)
-	if strings.Count(want, "true") < 20 || strings.Count(want, "false") < 20 {
-		t.Errorf("too little was asked: %s", want)
+	told := course(t)
+	if strings.Count(told, "true") < 20 || strings.Count(told, "false") < 20 {
+		t.Errorf("too little was asked: %s", told)
 	}
-	side := make([]string, 20)
-	var group sync.WaitGroup
-	for i := range side {
-		group.Go(func() { side[i] = course(t) })
-	}
-	group.Wait()
-	for _, got := range append(side, course(t)) {
-		if got != want {
-			t.Fatalf("P2: the same calls were answered by %.500s, and by %.500s", want, got)
-		}
-	}
+	checkSame(t, course)
 }

@@ -16,24 +16,21 @@ type Store struct {
 	broken api.Errno // what every call but Files answers, unless it is OK; there is no keeper then
 }
 
-// Open opens a store (P6, P12).
+// Open opens a store (P6, P12, P14).
 func Open(schema string, files []api.File, o api.Options) (*Store, api.Errno) {
 	known, _, e := schemas.Parse(schema)
 	if e != api.OK {
 		return nil, e
 	}
-	d, ok := disk.New(files)
+	d, ok := disk.New(files, o)
 	if !ok {
 		return nil, api.ErrDisk
 	}
 	if !mayBe(o) {
 		return nil, api.ErrOption
 	}
-	keeper, ok := epochs.Open(known, d)
-	if !ok {
-		return &Store{disk: d, broken: api.ErrCorrupt}, api.ErrCorrupt
-	}
-	return &Store{disk: d, keeper: keeper}, api.OK
+	keeper, e := epochs.Open(known, d)
+	return &Store{disk: d, keeper: keeper, broken: e}, e
 }
 
 // mayBe tells whether all options are ones that may be.
@@ -42,10 +39,26 @@ func mayBe(o api.Options) bool {
 		!slices.ContainsFunc(o.Keeps, func(bytes int) bool { return bytes < 0 })
 }
 
+// barred is what a call that would change the store answers ahead of all else; OK if it may (P14).
+func (s *Store) barred() api.Errno {
+	if s.broken == api.OK && s.disk.Trouble() == api.ErrFull {
+		return api.ErrReadOnly
+	}
+	return s.broken
+}
+
+// behind is what a call answers that had this error on the disk. Where power was lost, nothing but the files is ever told again.
+func (s *Store) behind(e api.Errno) api.Errno {
+	if e == api.ErrLost {
+		s.keeper, s.broken = nil, e
+	}
+	return e
+}
+
 // Write does a transaction (P7).
 func (s *Store) Write(x api.Tx) (int, api.Errno) {
-	if s.broken != api.OK {
-		return 0, s.broken
+	if e := s.barred(); e != api.OK {
+		return 0, e
 	}
 	return s.keeper.Write(x)
 }
@@ -76,20 +89,18 @@ func (s *Store) Revision() (int, int, api.Errno) {
 
 // Flush makes all transactions safe (P10).
 func (s *Store) Flush() api.Errno {
-	if s.broken != api.OK {
-		return s.broken
+	if e := s.barred(); e != api.OK {
+		return e
 	}
-	s.keeper.Flush()
-	return api.OK
+	return s.behind(s.keeper.Flush())
 }
 
 // Checkpoint begins a new epoch (P11).
 func (s *Store) Checkpoint() api.Errno {
-	if s.broken != api.OK {
-		return s.broken
+	if e := s.barred(); e != api.OK {
+		return e
 	}
-	s.keeper.Checkpoint()
-	return api.OK
+	return s.behind(s.keeper.Checkpoint())
 }
 
 // Files tells what is on the disk (P13).
